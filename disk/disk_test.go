@@ -698,6 +698,25 @@ func crashKeeps(t *testing.T, ats []int, keep []bool, off bool) {
 	looks(t, d, 0, false)
 }
 
+// P9.4: many open writes at once, each third of which is kept.
+func TestCrashOfManyOpenWrites(t *testing.T) {
+	const many = 20000
+	d := made(t, 7)
+	keep := make([]bool, many)
+	asked := make([]string, 7)
+	for k := range many {
+		at, b := k%5, row(k%65, k)
+		must(t, d.Write(at, b))
+		if keep[k] = k%3 == 0; keep[k] {
+			asked[at] = string(b)
+		}
+	}
+	looks(t, d, many, false)
+	must(t, d.Crash(keep))
+	looks(t, d, 0, false)
+	has(t, d, asked...)
+}
+
 // P9.4: a crash of a disk on which nothing is open changes nothing.
 func TestCrashWithNothingOpen(t *testing.T) {
 	d := made(t, 2)
